@@ -208,33 +208,43 @@ func damaged(raw string, mask int) string {
 
 // 6.2, 6.3: each set of the eight sectors that can't be read, and the blocks beside.
 func TestMasks(t *testing.T) {
-	v := vault.Ideal()
 	h := api.Head{Address: 1, Kind: api.KindData, Version: 1}
-	raw := sealed(t, v, h, body(1))
-	for mask := range 256 {
-		p := device(t, 24)
-		for at := range 3 {
-			put(t, p, at, raw)
-		}
-		flush(t, p)
-		for i := range 8 {
-			if mask>>i&1 == 1 {
-				spoil(t, p, 8+i)
+	for name, v := range bothVaults(t) {
+		t.Run(name, func(t *testing.T) {
+			raw := sealed(t, v, h, body(1))
+			for mask := range 256 {
+				p := spoilt(t, raw, mask)
+				wantGet(t, p, 1, damaged(raw, mask), mask)
+				wantCounts(t, p, 8, 24, 0)
+				wantGet(t, p, 0, raw, 0)
+				wantGet(t, p, 2, raw, 0)
+				if got := block.Load(p, v, 1); mask == 0 {
+					wantReading(t, "Load", got, h, body(1))
+				} else {
+					wantNoReading(t, "Load of a spoilt block", got)
+				}
+				put(t, p, 1, raw)
+				wantGet(t, p, 1, raw, 0)
+				wantReading(t, "Load of what was written anew", block.Load(p, v, 1), h, body(1))
 			}
-		}
-		wantGet(t, p, 1, damaged(raw, mask), mask)
-		wantCounts(t, p, 8, 24, 0)
-		wantGet(t, p, 0, raw, 0)
-		wantGet(t, p, 2, raw, 0)
-		if got := block.Load(p, v, 1); mask == 0 {
-			wantReading(t, "Load", got, h, body(1))
-		} else {
-			wantNoReading(t, "Load of a spoilt block", got)
-		}
-		put(t, p, 1, raw)
-		wantGet(t, p, 1, raw, 0)
-		wantReading(t, "Load of what was written anew", block.Load(p, v, 1), h, body(1))
+		})
 	}
+}
+
+// spoilt is a device with a block at three addresses; of the middle one the sectors of a mask can't be read.
+func spoilt(t *testing.T, raw string, mask int) *plate.Plate {
+	t.Helper()
+	p := device(t, 24)
+	for at := range 3 {
+		put(t, p, at, raw)
+	}
+	flush(t, p)
+	for i := range 8 {
+		if mask>>i&1 == 1 {
+			spoil(t, p, 8+i)
+		}
+	}
+	return p
 }
 
 // The chapter's second example.
