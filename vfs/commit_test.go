@@ -205,6 +205,23 @@ func TestFreedDoNotWait(t *testing.T) {
 	})
 }
 
+// 'Words': what goes makes room for what comes, in one call, too: no more than 24 blocks wait behind it, and nothing is committed.
+func TestFreedMakeRoom(t *testing.T) {
+	v := vault.Ideal()
+	p, f := made(t, v, 100)
+	x := newPlain(100)
+	run(t, f, x, []act{{call: "mkdir", s: "/d"}, {call: "create", s: "/d/a"}, {call: "sync"}, {call: "open", s: "/d/a"}})
+	was := f.Anchor()
+	for index := range 21 {
+		run(t, f, x, []act{{call: "write", at: index * 448, s: "x"}})
+	}
+	run(t, f, x, []act{{call: "close"}, {call: "remove", s: "/d/a"}})
+	if f.Anchor() != was {
+		t.Fatalf("committed: %v", f.Anchor())
+	}
+	wantCommit(t, "what goes", p, v, f, 1, 27, 28, 32, dataOf(100))
+}
+
 // 13.8: a power that fails in a Sync or a Leave; and in a call that commits ahead.
 func TestSyncCut(t *testing.T) {
 	onVaults(t, func(t *testing.T, v *vault.Vault) {

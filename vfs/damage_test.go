@@ -199,6 +199,8 @@ func TestDamageNeeded(t *testing.T) {
 			needs []act
 			not   []act
 		}{
+			{"the grid of blocks", 27, nil, []act{{call: "stat", s: "/a"}, read(0), {call: "create", s: "/a"}, {call: "list", s: "/d"}}},
+			{"the grid of inodes", 28, nil, []act{{call: "stat", s: "/a"}, read(0), {call: "write", at: 3}, {call: "open", s: "/a"}}},
 			{"the root's inode", 29, []act{{call: "stat", s: "/"}, {call: "stat", s: "/a"}, {call: "create", s: "/n"}, {call: "list", s: "/"}}, []act{read(0), {call: "sync"}}},
 			{"lost+found's inode", 30, []act{{call: "list", s: "/lost+found"}, {call: "remove", s: "/lost+found"}}, []act{{call: "stat", s: "/a"}, read(0)}},
 			{"a file's inode", 31, []act{{call: "stat", s: "/a"}, read(0), {call: "link", s: "/a", to: "/n"}, {call: "remove", s: "/a"}, {call: "open", s: "/a"}, {call: "write", s: "x"}, {call: "trunc"}}, []act{{call: "list", s: "/"}, {call: "create", s: "/a"}, {call: "stat", s: "/d/b"}, {call: "create", s: "/n"}}},
@@ -230,13 +232,53 @@ func TestDamageNeeded(t *testing.T) {
 							t.Fatalf("%s, sector %d: %s: %s", c.name, i, brief(b), brief(got))
 						}
 					}
+					if a := f.Anchor(); f.Sync() != api.OK || f.Anchor() != a {
+						t.Fatalf("%s: something was committed: %v", c.name, f.Anchor())
+					}
 					for _, b := range c.not {
 						both(t, f, y, b)
+					}
+					if a := f.Anchor(); c.at < 29 && (f.Sync() != api.OK || f.Anchor() != a) {
+						t.Fatalf("%s: something was committed: %v", c.name, f.Anchor())
 					}
 				}
 			}
 		}
 	})
+}
+
+// R2: beside an error there is nothing, also where some of it was found already.
+func TestDamageLater(t *testing.T) {
+	v := vault.Ideal()
+	p, f := made(t, v, 72)
+	want(t, "Create", f.Create("/a"), api.OK)
+	want(t, "Mkdir", f.Mkdir("/d"), api.OK)
+	for i := range 40 {
+		want(t, "Link", f.Link("/a", "/d/"+strconv.Itoa(i)), api.OK)
+	}
+	fd, _ := f.Open("/a")
+	want(t, "Write", f.Write(fd, 0, filled(1, 1000)), api.OK)
+	want(t, "Sync", f.Sync(), api.OK)
+	_, body := opened(t, p, v, 32)
+	p.Spoil(8 * inodeOf(body).Direct[1])
+	_, body = opened(t, p, v, 31)
+	p.Spoil(8 * inodeOf(body).Direct[1])
+	if l, e := f.List("/d"); len(l) != 0 || e != api.ErrDamage {
+		t.Fatalf("List: %v, error %d", l, e)
+	}
+	if l, e := f.Dump(); len(l) != 0 || e != api.ErrDamage {
+		t.Fatalf("Dump: %v, error %d", l, e)
+	}
+	if s, e := f.Read(fd, 0, 1000); s != "" || e != api.ErrDamage {
+		t.Fatalf("Read: %q, error %d", s, e)
+	}
+	// What stands ahead of the damage is found.
+	if _, e := f.Stat("/d/15"); e != api.OK {
+		t.Fatalf("Stat: error %d", e)
+	}
+	if _, e := f.Stat("/d/16"); e != api.ErrDamage {
+		t.Fatalf("Stat: error %d", e)
+	}
 }
 
 // 13.3, 13.11: blocks that are authentic, under the root, and not what they must be.
@@ -284,6 +326,7 @@ func TestDamageForged(t *testing.T) {
 			"a name of no inode":                   {map[int]piece{root: {6, 1, 1, 0, page(api.Entry{Name: "x", Ino: 99, Gen: 1})}}, []act{stat("/x"), {call: "dump"}, {call: "remove", s: "/x"}, {call: "open", s: "/x"}}},
 			"a name of the inode 0":                {map[int]piece{root: {6, 1, 1, 0, page(api.Entry{Name: "x", Gen: 1})}}, []act{stat("/x"), {call: "dump"}}},
 			"a name of the greatest inode":         {map[int]piece{root: {6, 1, 1, 0, page(api.Entry{Name: "x", Ino: 1<<32 - 1, Gen: 1})}}, []act{stat("/x"), {call: "dump"}}},
+			"a name of an inode too many":          {map[int]piece{root: {6, 1, 1, 0, page(api.Entry{Name: "x", Ino: 10, Gen: 1})}, 38: {5, 10, 1, 0, inode(3, same)}}, []act{stat("/x"), {call: "dump"}}},
 			"a name of a free inode":               {map[int]piece{root: {6, 1, 1, 0, page(api.Entry{Name: "x", Ino: 9})}}, []act{stat("/x"), {call: "dump"}}},
 			"a name of another generation":         {map[int]piece{root: {6, 1, 1, 0, page(api.Entry{Name: "x", Ino: 3, Gen: 2})}}, []act{stat("/x"), {call: "dump"}, {call: "rename", s: "/x", to: "/y"}}},
 			"a directory's block of another kind":  {map[int]piece{dirAt: {7, 4, 1, 0, slot}}, []act{stat("/d/b"), {call: "list", s: "/d"}}},
@@ -397,6 +440,28 @@ func TestDirectoryHoles(t *testing.T) {
 		}
 		want(t, "Sync", f.Sync(), api.OK)
 	})
+}
+
+// 'Words': blocks below the data are used, whatever a grid says: none of them is taken.
+func TestForgedGrid(t *testing.T) {
+	v := vault.Ideal()
+	start, _ := stored(t, v)
+	_, body := opened(t, start, v, 27)
+	b := []byte(body)
+	b[0], b[1], b[38/8] = 0, 0, b[38/8]&^(1<<(38%8))
+	forge(t, start, v, map[int]piece{27: {kind: 3, body: string(b)}})
+	f := mustMount(t, start, v)
+	f.Open("/a")
+	for index := range 5 {
+		want(t, "Write", f.Write(0, (2+index)*448, "x"), api.OK)
+	}
+	want(t, "Sync", f.Sync(), api.OK)
+	_, body = opened(t, start, v, 31)
+	for index := range 5 {
+		if at := inodeOf(body).Direct[2+index]; at < dataOf(72) {
+			t.Fatalf("the index %d is at %d", 2+index, at)
+		}
+	}
 }
 
 // R1: directories that name each other end every call, and generations, links and sizes at their bounds are no trouble.

@@ -36,7 +36,8 @@ func (w *work) putPage(dir node, x spot, l []api.Entry) error {
 	if e != api.OK {
 		return refused("a directory", e)
 	}
-	return w.put(x.at, piece{id: dir.data(x.index), body: body})
+	w.put(x.at, piece{id: dir.data(x.index), body: body})
+	return nil
 }
 
 // seek is the first slot of a directory at which a block's slots answer with a place, and how these are; false, if none does. Blocks behind it are not needed.

@@ -63,11 +63,7 @@ func (f *FS) has(fd int) bool {
 // opened is the file of a descriptor.
 func (w *work) opened(fd int) (node, error) {
 	h := w.open[fd]
-	n, err := w.named(api.Entry{Ino: h.ino, Gen: h.gen})
-	if err == nil && n.Kind != api.File {
-		return node{}, damaged(w.nodeAt(h.ino))
-	}
-	return n, err
+	return w.named(api.Entry{Ino: h.ino, Gen: h.gen})
 }
 
 // Read tells up to n bytes from a place on.
@@ -181,7 +177,8 @@ func (w *work) lay(n *node, x spot, at int, s string) error {
 		copy(body, was)
 	}
 	copy(body[from:end], s[x.index*api.BodyBytes+from-at:])
-	return w.put(x.at, piece{id: n.data(x.index), body: string(body)})
+	w.put(x.at, piece{id: n.data(x.index), body: string(body)})
+	return nil
 }
 
 // Trunc makes a file as long as is said.
@@ -228,9 +225,7 @@ func (w *work) shorten(n *node, size int) error {
 		if err != nil {
 			return err
 		}
-		if err := w.put(x.at, piece{id: n.data(x.index), body: body[:rest] + zeros(api.BodyBytes-rest)}); err != nil {
-			return err
-		}
+		w.put(x.at, piece{id: n.data(x.index), body: body[:rest] + zeros(api.BodyBytes-rest)})
 	}
 	return nil
 }

@@ -29,13 +29,14 @@ func Make(p *plate.Plate, v *vault.Vault, volume int) api.Errno {
 	if e != api.OK {
 		return e
 	}
-	if volume < 0 || volume > maxVolume || !given(v) {
+	if volume < 0 || volume > maxVolume {
 		return api.ErrArg
 	}
 	l, e := chart.Layout(live)
 	if e != api.OK {
 		return e
 	}
+	// All is sealed ahead of the first write: a vault that nobody gave is told here.
 	ws, e := sealEmpty(v, l, volume)
 	if e != api.OK {
 		return e
@@ -56,12 +57,6 @@ func Make(p *plate.Plate, v *vault.Vault, volume int) api.Errno {
 	// Format flushes ahead of the superblock: where that lasts, all of these do.
 	root := tree.New(v, tags).Root()
 	return journal.Format(p, v, api.Super{Volume: volume, Next: firstVersion + len(ws), Live: live, Root: root})
-}
-
-// given tells whether a vault is one: Open, which numbers nothing, refuses these arguments only under one that nobody gave.
-func given(v *vault.Vault) bool {
-	_, e := v.Open(0, zeros(api.NonceBytes), "", "")
-	return e != api.ErrArg
 }
 
 // sealEmpty is the blocks of an empty file system, one for each address from the grids' on and below the data.

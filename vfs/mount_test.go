@@ -141,6 +141,19 @@ func TestMountAnchors(t *testing.T) {
 	})
 }
 
+// 13.2: the first Epoch is one that may be known, too.
+func TestMountFirstAnchor(t *testing.T) {
+	v := vault.Ideal()
+	p := newDevice(t, sectorsOf(48))
+	mustMake(t, p, v)
+	s, _ := superOn(p, v)
+	wantNoMount(t, "another root", p, v, api.Anchor{}, api.ErrAnchor)
+	wantNoMount(t, "another root", p, v, api.Anchor{Root: blank(32)}, api.ErrAnchor)
+	if _, e := vfs.Mount(p, v, api.Anchor{Root: s.Root}); e != api.OK {
+		t.Fatalf("Mount with the same: error %d", e)
+	}
+}
+
 // G4: who knows a later anchor mounts no earlier image.
 func TestMountEarlier(t *testing.T) {
 	onVaults(t, func(t *testing.T, v *vault.Vault) {

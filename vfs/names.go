@@ -77,9 +77,7 @@ func (w *work) bringPath(x place, n node, to string) error {
 		return err
 	}
 	n.Size, n.Direct[0] = len(to), at
-	if err := w.put(at, piece{id: n.data(0), body: body}); err != nil {
-		return err
-	}
+	w.put(at, piece{id: n.data(0), body: body})
 	if err := w.save(n); err != nil {
 		return err
 	}
@@ -96,7 +94,7 @@ func (f *FS) Remove(s string) api.Errno {
 		if n.isKept() {
 			return refused(s, api.ErrBusy)
 		}
-		last := n.Kind == api.Dir || n.Links <= 1
+		last := n.Links <= 1
 		if err := w.mayGo(n, last); err != nil {
 			return err
 		}
@@ -174,7 +172,8 @@ func (f *FS) Rename(from, to string) api.Errno {
 		if err != nil {
 			return err
 		}
-		if n.Kind == api.Dir && slices.Contains(x.above, n.ino) {
+		// Nothing but directories stands above it.
+		if slices.Contains(x.above, n.ino) {
 			return refused(to, api.ErrLoop)
 		}
 		if err := w.dropName(was); err != nil {

@@ -19,12 +19,9 @@ func (f *FS) nodeAt(ino int) int { return f.layout.Table + ino - 1 }
 
 // node is an inode as it stands, of whatever generation.
 func (w *work) node(ino int) (node, error) {
-	if ino < 1 || ino > w.layout.Inodes {
-		return node{}, refused("inode "+strconv.Itoa(ino), api.ErrDamage)
-	}
 	at := w.nodeAt(ino)
 	x, ok := w.look(at)
-	if !ok || x.id != (id{kind: api.KindInode, ino: ino, gen: x.gen}) {
+	if !ok || ino > w.layout.Inodes || x.id != (id{kind: api.KindInode, ino: ino, gen: x.gen}) {
 		return node{}, damaged(at)
 	}
 	i, e := pack.InodeOf(x.body)
@@ -66,7 +63,8 @@ func (w *work) save(n node) error {
 	if e != api.OK {
 		return refused("inode "+strconv.Itoa(n.ino), e)
 	}
-	return w.put(w.nodeAt(n.ino), x)
+	w.put(w.nodeAt(n.ino), x)
+	return nil
 }
 
 // takeNode is the least inode that is free, taken anew with one name.
@@ -97,9 +95,6 @@ func (w *work) freeNode(n node) error {
 
 // leadsTo is the path that an inode leads to, name by name, and as a text.
 func (w *work) leadsTo(n node) ([]string, string, error) {
-	if n.Size > api.MaxPath {
-		return nil, "", damaged(w.nodeAt(n.ino))
-	}
 	to, err := w.bytes(n, 0, n.Size)
 	if err != nil {
 		return nil, "", err

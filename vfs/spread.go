@@ -65,7 +65,8 @@ func (w *work) putNumbers(at int, is id, l []int) (int, error) {
 		}
 		at = taken
 	}
-	return at, w.put(at, piece{id: is, body: body})
+	w.put(at, piece{id: is, body: body})
+	return at, nil
 }
 
 // run is the numbers among which an index is told, and the index of the first of these.
@@ -161,9 +162,6 @@ func (w *work) cut(n *node, from int) error {
 	}
 	if err := w.cutTable(&n.Single, n.single(), from-firstSingle); err != nil {
 		return err
-	}
-	if n.Double == 0 {
-		return nil
 	}
 	outer, err := w.numbers(n.Double, n.double())
 	if err != nil {

@@ -51,9 +51,7 @@ func (f *FS) do(call func(w *work) error) api.Errno {
 	if err := call(w); err != nil {
 		return told(err)
 	}
-	if err := w.putGrids(); err != nil {
-		return told(err)
-	}
+	w.putGrids()
 	return f.take(w)
 }
 
@@ -177,29 +175,21 @@ func (w *work) read(at int, is id) (string, error) {
 }
 
 // put lets a block wait, if it is another one than stands there.
-func (w *work) put(at int, x piece) error {
+func (w *work) put(at int, x piece) {
 	if was, ok := w.look(at); ok && was == x {
-		return nil
-	}
-	// What waits must have room for its numbers, since a commit can't be refused for them any more.
-	if _, e := pack.Head(x.head(0, at, 0, 0)); e != api.OK {
-		return refused("a head", e)
+		return
 	}
 	w.waits[at] = x
-	return nil
 }
 
 // putGrids lets the grids wait that this work changed.
-func (w *work) putGrids() error {
+func (w *work) putGrids() {
 	if w.blocks.Body() != w.FS.blocks.Body() {
-		if err := w.put(w.layout.Blocks, piece{id: id{kind: api.KindBlocks}, body: w.blocks.Body()}); err != nil {
-			return err
-		}
+		w.put(w.layout.Blocks, piece{id: id{kind: api.KindBlocks}, body: w.blocks.Body()})
 	}
 	if w.nodes.Body() != w.FS.nodes.Body() {
-		return w.put(w.layout.Nodes, piece{id: id{kind: api.KindInodes}, body: w.nodes.Body()})
+		w.put(w.layout.Nodes, piece{id: id{kind: api.KindInodes}, body: w.nodes.Body()})
 	}
-	return nil
 }
 
 // takeBlock is a block that nobody has, taken now.
