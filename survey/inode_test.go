@@ -7,6 +7,7 @@ import (
 	"testing"
 
 	"grapnel/api"
+	"grapnel/block"
 	"grapnel/survey"
 	"grapnel/vault"
 )
@@ -47,9 +48,9 @@ func lostNodes() map[int][]api.Finding {
 	}
 }
 
-// 14.2, 'An inode is authentic': an inode at which nothing stands is lost: it is free, but the root and lost+found, of a generation behind all that are told of.
+// 14.2, 'An inode is authentic': an inode at which nothing stands is lost: it is free, but the root and lost+found, of a generation behind all that are told of, and behind 0, if none is.
 func TestInodesLost(t *testing.T) {
-	gens := map[int]int{inoX: 0, 12: 0, 20: 0}
+	gens := map[int]int{inoX: 1, 12: 1, 20: 1}
 	var l []trial
 	for ino, found := range lostNodes() {
 		gen, told := gens[ino]
@@ -149,7 +150,7 @@ func TestInodesAuthentic(t *testing.T) {
 	})
 }
 
-// 14.2, 'One that is not': its generation is behind those that all heads of that inode tell, of whatever kind, wherever they stand.
+// 14.2, 'One that is not': its generation is behind those that all heads of that inode tell, of whatever kind, wherever they stand; behind 0, where none tells of it.
 func TestInodesGeneration(t *testing.T) {
 	gen := func(ino, must int) func(t *testing.T, s *scene) {
 		return func(t *testing.T, s *scene) {
@@ -159,7 +160,7 @@ func TestInodesGeneration(t *testing.T) {
 		}
 	}
 	tryAll(t, []trial{
-		{"none", func(s *scene) { s.loseInode(12) }, []api.Finding{f(3, 12)}, gen(12, 0)},
+		{"none", func(s *scene) { s.loseInode(12) }, []api.Finding{f(3, 12)}, gen(12, 1)},
 		{"one of 0", func(s *scene) { s.loseInode(12); s.put(s.free(0), 7, 12, 0, 0, 1, "") }, []api.Finding{f(3, 12)}, gen(12, 1)},
 		{"the greatest", func(s *scene) {
 			s.loseInode(12)
@@ -177,7 +178,7 @@ func TestInodesGeneration(t *testing.T) {
 		{"at another inode's place", func(s *scene) {
 			s.loseInode(12)
 			s.head(s.nodeAt(13), func(h *api.Head) { h.Ino, h.Gen = 12, 6 })
-		}, []api.Finding{f(3, 12), f(3, 13)}, func(t *testing.T, s *scene) { gen(12, 7)(t, s); gen(13, 0)(t, s) }},
+		}, []api.Finding{f(3, 12), f(3, 13)}, func(t *testing.T, s *scene) { gen(12, 7)(t, s); gen(13, 1)(t, s) }},
 		{"its own, with a wrong index", func(s *scene) {
 			s.head(s.nodeAt(12), func(h *api.Head) { h.Index, h.Gen = 1, 8 })
 		}, []api.Finding{f(3, 12)}, gen(12, 9)},
@@ -185,15 +186,59 @@ func TestInodesGeneration(t *testing.T) {
 		{"a head that is not Ok", func(s *scene) {
 			s.loseInode(12)
 			s.x.Readings[s.free(0)].Head = api.Head{Ino: 12, Gen: 5}
-		}, []api.Finding{f(3, 12)}, gen(12, 0)},
-		{"lost+found and its blocks", func(s *scene) { s.loseInode(2); s.lose(49, 50) }, []api.Finding{f(3, 2), f(7, 1, 0)}, gen(2, 0)},
-		{"the root and its block", func(s *scene) { s.loseInode(1); s.lose(51) }, orphansOfRoot(f(3, 1)), gen(1, 0)},
+		}, []api.Finding{f(3, 12)}, gen(12, 1)},
+		// The root's first slot tells of that generation already: it is no finding.
+		{"lost+found and its blocks", func(s *scene) { s.loseInode(2); s.lose(49, 50) }, []api.Finding{f(3, 2)}, gen(2, 1)},
+		{"the root and its block", func(s *scene) { s.loseInode(1); s.lose(51) }, orphansOfRoot(f(3, 1)), gen(1, 1)},
 		{"both, and all their blocks", func(s *scene) { s.loseInode(1, 2); s.lose(49, 50, 51) }, orphansOfRoot(f(3, 1), f(3, 2)), func(t *testing.T, s *scene) {
-			gen(1, 0)(t, s)
-			gen(2, 0)(t, s)
-			wantSlots(t, s, 1, "0 lost+found 2 0")
+			gen(1, 1)(t, s)
+			gen(2, 1)(t, s)
+			wantSlots(t, s, 1, "0 lost+found 2 1")
 		}},
 		{"negative ones", func(s *scene) { s.loseInode(12); s.put(s.free(0), 7, 12, -5, 0, 1, "") }, []api.Finding{f(3, 12)}, gen(12, -4)},
+	})
+}
+
+// wantFirstGens tells that all that is wanted, but grids, is of the generation 1.
+func wantFirstGens(t *testing.T, what string, c api.Verdict) {
+	t.Helper()
+	for _, w := range c.Wants {
+		if w.Kind != api.KindBlocks && w.Kind != api.KindInodes && w.Gen != 1 {
+			t.Fatalf("%s: wanted %s; want the generation 1", what, brief(w))
+		}
+	}
+}
+
+// 14.2, 'One that is not': inodes that are overwritten in an empty file system, of which no other block tells: 1 and 2 where their blocks are, too.
+func TestInodesOverwritten(t *testing.T) {
+	onVaults(t, func(t *testing.T, v *vault.Vault) {
+		p := made(t, v, 48)
+		l := layoutOf(t, 48)
+		was := p.Copy()
+		for ino := 1; ino <= l.Inodes; ino++ {
+			p := was.Copy()
+			lost := []int{l.Table + ino - 1}
+			switch ino {
+			case 1:
+				lost = append(lost, l.Root)
+			case 2:
+				lost = append(lost, upTo(l.Lost, l.LostBlocks)...)
+			}
+			for _, at := range lost {
+				all(t, p.Lay(8*at, blank(64)))
+			}
+			what := "overwritten, the inode " + strconv.Itoa(ino)
+			x := wantEvidence(t, what, v, 48, block.All(p))
+			c := judged(t, what, x)
+			same(t, what+": Findings", c.Findings, []api.Finding{f(3, ino)})
+			var wanted []int
+			for _, w := range c.Wants {
+				wanted = append(wanted, w.Address)
+			}
+			same(t, what+": Wants", wanted, lost)
+			wantFirstGens(t, what, c)
+			settled(t, what, x, c)
+		}
 	})
 }
 
@@ -267,6 +312,7 @@ func TestJudgeBounds(t *testing.T) {
 		if c.Authentic != 0 || len(c.Wants) != l.Data-27 || len(c.Used) != l.Data {
 			t.Fatalf("nothing is authentic: %s", brief(c))
 		}
+		wantFirstGens(t, "nothing is authentic", c)
 		if tree := wantWell(t, "nothing is authentic", settled(t, "nothing is authentic", y, c)); len(tree) != 2 {
 			t.Fatalf("nothing is authentic: %v", tree)
 		}

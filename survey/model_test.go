@@ -125,6 +125,8 @@ func (c *court) readNode(i int) {
 		return
 	}
 	c.tell(3, i)
+	// What is put in brackets there is the greatest where there is none, not the generation behind it.
+	greatest := 0
 	var gens []int
 	for _, r := range c.x.Readings {
 		if r.Ok && r.Head.Ino == i {
@@ -132,8 +134,9 @@ func (c *court) readNode(i int) {
 		}
 	}
 	if len(gens) > 0 {
-		n.gen = slices.Max(gens) + 1
+		greatest = slices.Max(gens)
 	}
+	n.gen = greatest + 1
 	if i <= 2 {
 		n.is = api.Inode{Kind: 2, Size: []int{448, c.l.LostBlocks * 448}[i-1]}
 	}

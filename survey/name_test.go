@@ -400,7 +400,12 @@ func TestWants(t *testing.T) {
 	for _, w := range c.Wants {
 		r := x.Readings[w.Address]
 		if at := w.Address; at == singleOfA || at == lastOfA || at == 12+28 {
-			if h := r.Head; w != (api.Want{Address: at, Kind: h.Kind, Ino: h.Ino, Gen: h.Gen, Index: h.Index, Body: r.Body}) {
+			must := api.Want{Address: at, Kind: r.Head.Kind, Ino: r.Head.Ino, Gen: r.Head.Gen, Index: r.Head.Index, Body: r.Body}
+			if at == 12+28 {
+				// It was never taken: its generation is behind 0 then.
+				must.Gen = 1
+			}
+			if w != must {
 				t.Fatalf("wanted %s; it was %s", brief(w), brief(r))
 			}
 		}

@@ -71,7 +71,7 @@ func tellsNothing(row []int) bool {
 
 // readNodes reads all inodes. One that is lost is told, and made anew.
 func (j *judge) readNodes() {
-	later := j.laterGens()
+	greatest := j.greatestGens()
 	for i := range j.layout.Inodes {
 		ino := i + 1
 		n := &node{ino: ino, pieces: map[int]int{}, inner: map[int]int{}}
@@ -80,7 +80,7 @@ func (j *judge) readNodes() {
 		n.gen = r.Head.Gen
 		if !n.authentic {
 			j.find(api.FoundInode, ino, 0, 0)
-			n.Inode, n.gen = j.anew(ino), later[ino]
+			n.Inode, n.gen = j.anew(ino), greatest[ino]+1
 		}
 		if n.isKept() {
 			n.place = api.RootIno
@@ -89,20 +89,20 @@ func (j *judge) readNodes() {
 	}
 }
 
-// laterGens is, of each inode of which a block tells, the generation behind all that are told.
-func (j *judge) laterGens() map[int]int {
-	later := map[int]int{}
+// greatestGens is, of each inode of which a block tells, the greatest generation that is told. Of the others it is 0, which is what a map answers of them.
+func (j *judge) greatestGens() map[int]int {
+	greatest := map[int]int{}
 	for at := range j.layout.Live {
 		r := j.evidence.Readings[at]
 		if !r.Ok {
 			continue
 		}
-		gen, told := later[r.Head.Ino]
-		if !told || gen <= r.Head.Gen {
-			later[r.Head.Ino] = r.Head.Gen + 1
+		gen, told := greatest[r.Head.Ino]
+		if !told || gen < r.Head.Gen {
+			greatest[r.Head.Ino] = r.Head.Gen
 		}
 	}
-	return later
+	return greatest
 }
 
 // inodeIn is the inode that a reading is, if it is that one, and authentic.
